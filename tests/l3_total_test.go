@@ -231,20 +231,25 @@ func overwrite(list []int) {
 	}
 }
 
-// TestCyclesShareNoMemory overwrites results, and holds arguments and later results against earlier ones.
+// wantNoSharing overwrites a result, and holds the argument and later results against earlier ones.
+func wantNoSharing(t *testing.T, f cycleCall, list []int) {
+	t.Helper()
+	argument := roomy(list)
+	want, wantOK := f.call(slices.Clone(list))
+	got, ok := f.call(argument)
+	other, _ := f.call(argument)
+	overwrite(got)
+	wantRoomy(t, aboutList(f.name, list), argument, list)
+	third, _ := f.call(argument)
+	if ok != wantOK || !slices.Equal(other, want) || !slices.Equal(third, want) {
+		t.Errorf("%s: %v, %v, %v; want %v, %v", aboutList(f.name, list), other, third, ok, want, wantOK)
+	}
+}
+
 func TestCyclesShareNoMemory(t *testing.T) {
 	for _, f := range cycleCalls() {
 		for _, list := range cycleLists() {
-			argument := roomy(list)
-			want, wantOK := f.call(slices.Clone(list))
-			got, ok := f.call(argument)
-			other, _ := f.call(argument)
-			overwrite(got)
-			wantRoomy(t, aboutList(f.name, list), argument, list)
-			third, _ := f.call(argument)
-			if ok != wantOK || !slices.Equal(other, want) || !slices.Equal(third, want) {
-				t.Errorf("%s: %v, %v, %v; want %v, %v", aboutList(f.name, list), other, third, ok, want, wantOK)
-			}
+			wantNoSharing(t, f, list)
 		}
 	}
 }
