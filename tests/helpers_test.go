@@ -78,9 +78,14 @@ func heightAt(path string, n int) int {
 	return strings.Count(path[:n], "U") - strings.Count(path[:n], "D")
 }
 
+// lastFresh keeps the last text of freshText. One that nothing keeps might be on the stack,
+// from where a text is copied even by code that hands its argument out.
+var lastFresh string
+
 // freshText returns a text in memory of its own.
 func freshText(text string) string {
-	return string([]byte(text))
+	lastFresh = string([]byte(text))
+	return lastFresh
 }
 
 // sameMemory reports whether two texts share their first byte in memory.
